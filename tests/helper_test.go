@@ -6,16 +6,20 @@ const spareMark = -77
 
 // roomy lays a list into memory with spare room behind it, which is marked so that a write there shows.
 func roomy(list []int64) []int64 {
-	whole := make([]int64, len(list)+4)
+	return roomyWith(list, spareMark)
+}
+
+func roomyWith[T any](list []T, mark T) []T {
+	whole := make([]T, len(list)+4)
 	copy(whole, list)
 	for i := len(list); i < len(whole); i++ {
-		whole[i] = spareMark
+		whole[i] = mark
 	}
 	return whole[:len(list)]
 }
 
 // whole is a list with all that lies in the spare room behind it.
-func whole(list []int64) []int64 {
+func whole[T any](list []T) []T {
 	return slices.Clone(list[:cap(list)])
 }
 
@@ -27,13 +31,13 @@ func scribble(list []int64) {
 	}
 }
 
-// allLists are all lists of this many numbers out of these.
-func allLists(length int, numbers ...int64) [][]int64 {
-	out := [][]int64{{}}
+// allLists are all lists of this many out of these.
+func allLists[T any](length int, of ...T) [][]T {
+	out := [][]T{{}}
 	for range length {
-		var longer [][]int64
+		var longer [][]T
 		for _, list := range out {
-			for _, n := range numbers {
+			for _, n := range of {
 				longer = append(longer, append(slices.Clone(list), n))
 			}
 		}

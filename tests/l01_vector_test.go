@@ -19,9 +19,9 @@ func vectorSets() [][][]int64 {
 		{0, 1, 2, 3, 4, 5, 6, 8}, {1, 1, 2, 3, 4, 5, 6, 7},
 	}
 	return [][][]int64{
-		allLists(1, 0, 1, 2, most-1, most),
-		allLists(2, 0, 1, most-1, most),
-		allLists(3, 0, 3, most),
+		allLists[int64](1, 0, 1, 2, most-1, most),
+		allLists[int64](2, 0, 1, most-1, most),
+		allLists[int64](3, 0, 3, most),
 		long,
 	}
 }
