@@ -439,10 +439,15 @@ func newMember(t *testing.T, id, n int64) impl.Member {
 	return m
 }
 
-// nearMember is a right one whose Rows are near to one another: so all parts of Step come up.
+// nearMember is of any n and Id.
 func nearMember(lot *rand.Rand) impl.Member {
 	n := 1 + lot.Int63n(5)
-	m := impl.Member{Id: lot.Int63n(n), N: n}
+	return nearMemberOf(lot, lot.Int63n(n), n)
+}
+
+// nearMemberOf is a right one whose Rows are near to one another: so all parts of Step come up.
+func nearMemberOf(lot *rand.Rand, id, n int64) impl.Member {
+	m := impl.Member{Id: id, N: n}
 	some := func(of int) bool { return lot.Intn(of) == 0 }
 	suspects, by, trim, standing := drawnSuspects(lot, n), lot.Intn(int(n)), smallGot(lot, n), lot.Intn(3)
 	if some(2) {
@@ -498,10 +503,15 @@ func smallGot(lot *rand.Rand, n int64) []int64 {
 	return out
 }
 
-// farMember is a right one of any Rows at all.
+// farMember is of any n and Id.
 func farMember(lot *rand.Rand) impl.Member {
 	n := 1 + lot.Int63n(5)
-	m := impl.Member{Id: lot.Int63n(n), N: n}
+	return farMemberOf(lot, lot.Int63n(n), n)
+}
+
+// farMemberOf is a right one of any Rows at all.
+func farMemberOf(lot *rand.Rand, id, n int64) impl.Member {
+	m := impl.Member{Id: id, N: n}
 	for range n {
 		m.Rows = append(m.Rows, drawnRow(lot, n))
 	}
