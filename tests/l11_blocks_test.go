@@ -153,10 +153,10 @@ func doubled(lot *rand.Rand, list []impl.Block) []impl.Block {
 	return shuffled(lot, out)
 }
 
-func ordersOf(list []impl.Block) [][]impl.Block {
-	out := [][]impl.Block{{}}
+func ordersOf[T any](list []T) [][]T {
+	out := [][]T{{}}
 	for _, b := range list {
-		var longer [][]impl.Block
+		var longer [][]T
 		for _, order := range out {
 			for place := range len(order) + 1 {
 				longer = append(longer, slices.Insert(slices.Clone(order), place, b))

@@ -803,6 +803,12 @@ func TestNobodyIsLeftAsking(t *testing.T) {
 		}
 		scribbleGroup(g)
 	}
+	checkNobodyLeft(t, before)
+}
+
+// checkNobodyLeft waits a while, since a goroutine that has done all its work may still be counted.
+func checkNobodyLeft(t *testing.T, before int) {
+	t.Helper()
 	for range 500 {
 		if runtime.NumGoroutine() <= before {
 			return
